@@ -3,17 +3,16 @@ package pack
 import (
 	"cartulary/api"
 	"cartulary/delta"
-	"cartulary/object"
 )
 
 // blockSize is such that objects which share some 30 bytes in a row share a block, and that few share one by chance.
 const blockSize = 16
 
-// base is an object that a delta may stand upon.
+// base is an object of the pack that a delta may stand upon.
 type base struct {
 	object string
-	depth  int            // the length of its chain of deltas
-	upon   representation // of a delta upon it, the delta itself left out
+	index  int // in the pack
+	depth  int // the length of its chain of deltas
 }
 
 // bases finds the base that is most like an object by the blocks that they share, since making a delta upon every base
@@ -23,15 +22,8 @@ type bases struct {
 	blocks map[string]int // for each block, the newest base that has it
 }
 
-// outsideBases leaves out what is not an object: only the id of an object may stand in a pack.
-func outsideBases(out []string) *bases {
-	b := &bases{blocks: map[string]int{}}
-	for _, s := range out {
-		if _, bad := object.Decode(s); bad == api.OK {
-			b.add(base{object: s, upon: representation{way: outside, id: object.Id(s)}})
-		}
-	}
-	return b
+func newBases() *bases {
+	return &bases{blocks: map[string]int{}}
 }
 
 // add leaves out what no further delta may stand upon.
@@ -86,7 +78,5 @@ func (b base) encodeDelta(s string) (string, api.Errno) {
 	if bad != api.OK {
 		return "", bad
 	}
-	p := b.upon
-	p.bytes = d
-	return p.encode()
+	return representation{way: earlier, index: b.index, bytes: d}.encode()
 }

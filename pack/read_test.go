@@ -1,12 +1,15 @@
 package pack
 
 import (
+	"maps"
 	"math/rand"
 	"slices"
 	"strings"
 	"testing"
 
 	"cartulary/api"
+	"cartulary/delta"
+	"cartulary/wire"
 )
 
 // tooGreat is 2^62, which is no number of package wire.
@@ -213,6 +216,31 @@ func TestP5_3BaseOutsideIsNoObject(t *testing.T) {
 	}
 }
 
+// Were two different objects outside to have one id, the first one has it: here the ids are made up.
+func TestP5_3FirstOfOneId(t *testing.T) {
+	for _, test := range []struct {
+		ids  []string
+		want map[string]int
+	}{
+		{nil, map[string]int{}},
+		{[]string{"a"}, map[string]int{"a": 0}},
+		{[]string{"a", "b"}, map[string]int{"a": 0, "b": 1}},
+		{[]string{"a", "a"}, map[string]int{"a": 0}},
+		{[]string{"b", "a", "a", "b", "c", "a"}, map[string]int{"b": 0, "a": 1, "c": 4}},
+	} {
+		if got := firstIndexes(test.ids); !maps.Equal(got, test.want) {
+			t.Errorf("firstIndexes(%q) = %v, want %v", test.ids, got, test.want)
+		}
+	}
+	a, b := blob("abc"), blob("xyz")
+	u := newUnpacking([]string{a, b})
+	u.indexes = firstIndexes([]string{digest(a), digest(a)})
+	r := wire.Read(uponOutside(digest(a), longer(a, "d")))
+	if s, depth, bad := u.readObject(r); s != blob("abcd") || depth != 1 || bad != api.OK {
+		t.Errorf("an object upon the first of one id = %q, %d, %d", s, depth, bad)
+	}
+}
+
 func TestP5_3UnreadableDeltas(t *testing.T) {
 	a := blob("abc")
 	long := strings.Repeat("l", 5000)
@@ -374,8 +402,8 @@ func TestP5_3Beginnings(t *testing.T) {
 		for n := 1; n < len(body); n++ {
 			wantNoRead(t, sealed(body[:n]), list[:1], api.ErrForm)
 		}
-		wantNoRead(t, sealed(body), nil, api.ErrBase)
 	}
+	wantNoRead(t, byHand, nil, api.ErrBase)
 }
 
 func TestP5_3AllShortPacks(t *testing.T) {
@@ -444,13 +472,37 @@ func TestP5_3PacksByChance(t *testing.T) {
 	}
 }
 
+// mixedPack stores the objects in the three ways in turn.
+func mixedPack(t *testing.T, l, out []string) string {
+	var representations []string
+	for i, s := range l {
+		representation := asWhole(s)
+		switch {
+		case i%3 == 1:
+			representation = uponEarlier(i-1, made(t, l[i-1], s))
+		case i%3 == 2:
+			base := out[i%len(out)]
+			representation = uponOutside(digest(base), made(t, base, s))
+		}
+		representations = append(representations, representation)
+	}
+	b := packOf(representations...)
+	wantRead(t, b, out, l)
+	return b
+}
+
+func made(t *testing.T, base, target string) string {
+	d, bad := delta.Make(base, target)
+	if bad != api.OK || len(d) > api.MaxText {
+		t.Fatalf("a delta of %d bytes, %d", len(d), bad)
+	}
+	return d
+}
+
 func TestP5_3ChangedPacks(t *testing.T) {
 	source := rand.New(rand.NewSource(63))
 	list := append(versions(12), samples()[:20]...)
-	b, bad := Write(list[3:], list[:3])
-	if bad != api.OK {
-		t.Fatal(bad)
-	}
+	b := mixedPack(t, list[3:], list[:3])
 	seen := map[api.Errno]int{}
 	for range 5000 {
 		body := []byte(b[:len(b)-32])

@@ -21,7 +21,8 @@ type representation struct {
 	bytes string // of the object if it is whole, and of the delta otherwise
 }
 
-// encode fails for a delta of more than MaxText bytes, which is no string of package wire.
+// encode is for the two ways in which Write stores objects. It fails for a delta of more than MaxText bytes, which is no
+// string of package wire.
 func (p representation) encode() (string, api.Errno) {
 	var w wire.Writer
 	w.Number(p.way)
@@ -31,9 +32,6 @@ func (p representation) encode() (string, api.Errno) {
 		w.Bytes(p.bytes)
 	case p.way == earlier:
 		w.Number(p.index)
-		w.Text(p.bytes)
-	case p.way == outside:
-		w.Bytes(p.id)
 		w.Text(p.bytes)
 	}
 	return w.Done()

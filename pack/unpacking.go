@@ -12,15 +12,26 @@ type unpacking struct {
 	read    distinct
 	depths  []int // for each object that was read, the length of its chain of deltas
 	out     []string
-	indexes map[string]int // in out, by id
+	indexes map[string]int // in out, by id: of the first one that has it
 }
 
 func newUnpacking(out []string) *unpacking {
-	indexes := map[string]int{}
+	ids := make([]string, len(out))
 	for i, s := range out {
-		indexes[object.Id(s)] = i
+		ids[i] = object.Id(s)
 	}
-	return &unpacking{read: newDistinct(), out: out, indexes: indexes}
+	return &unpacking{read: newDistinct(), out: out, indexes: firstIndexes(ids)}
+}
+
+// firstIndexes is where each id is first, so that what comes behind never takes the place of an object with its id.
+func firstIndexes(ids []string) map[string]int {
+	indexes := map[string]int{}
+	for i, id := range ids {
+		if _, found := indexes[id]; !found {
+			indexes[id] = i
+		}
+	}
+	return indexes
 }
 
 func (u *unpacking) next(r *wire.Reader) api.Errno {
